@@ -36,11 +36,14 @@ func chainsOf(o api.Order) [][]int {
 	return lists
 }
 
-// fewOrders are those of which all chains can be told.
+// fewOrders are small ones and edges, and of the mixed ones those of up to 9 elements and a few of each greater number: all
+// chains of a great one take long to tell.
 func fewOrders(t *testing.T) []api.Order {
-	list := append(smallOrders(), subsets(), flat(10), line(10))
+	list := append(smallOrders(), subsets(), flat(16), line(16))
+	great := make([]int, api.MaxN+1)
 	for _, o := range mixed(t) {
-		if o.N <= 9 {
+		great[o.N]++
+		if o.N <= 9 || great[o.N] <= 4 {
 			list = append(list, o)
 		}
 	}

@@ -149,6 +149,7 @@ func TestWrongOrders(t *testing.T) {
 				refusesSet(t, o, set, want)
 			}
 			refusesAll(t, o, want)
+			refusesCount(t, o, want)
 			refusesInclusion(t, o, want)
 			if l, e := Birkhoff(o); e != want || len(l) != 0 {
 				t.Error("Birkhoff", o, l, e, want)

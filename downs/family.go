@@ -8,21 +8,30 @@ import (
 // All tells all down-sets, as numbers that rise; ErrLarge, if there are more than MaxDowns.
 func All(o api.Order) ([]uint32, api.Errno) {
 	var list []uint32
-	e := each(o, func(set uint32) { list = append(list, set) })
+	whole, e := each(o, func(set uint32) bool {
+		if len(list) == api.MaxDowns {
+			return false
+		}
+		list = append(list, set)
+		return true
+	})
 	if e != api.OK {
 		return nil, e
+	}
+	if !whole {
+		return nil, api.ErrLarge
 	}
 	return list, api.OK
 }
 
-// Count tells how many down-sets there are; ErrLarge, if there are more than MaxDowns.
+// Count tells how many down-sets there are, also where All would have too many to tell.
 func Count(o api.Order) (int, api.Errno) {
 	n := 0
-	e := each(o, func(uint32) { n++ })
-	if e != api.OK {
-		return 0, e
-	}
-	return n, api.OK
+	_, e := each(o, func(uint32) bool {
+		n++
+		return true
+	})
+	return n, e
 }
 
 // Inclusion tells the order of the down-sets, by which is within which; ErrLarge, if there are more than MaxN.
@@ -45,25 +54,14 @@ func Inclusion(o api.Order) (api.Order, api.Errno) {
 	return api.Order{N: len(list), Up: up}, api.OK
 }
 
-// each tells the down-sets of o one by one, as numbers that rise; ErrLarge, if there is one more behind MaxDowns of them.
-func each(o api.Order, tell func(set uint32)) api.Errno {
+// each tells the down-sets of o one by one, as numbers that rise, until tell has enough; it answers if all of them were told.
+// How many are enough is the caller's to say: MaxDowns bounds what All answers, not how many there may be.
+func each(o api.Order, tell func(set uint32) bool) (bool, api.Errno) {
 	down, e := order.Dual(o)
 	if e != api.OK {
-		return e
+		return false, e
 	}
-	told := 0
-	whole := choose(o.Up, down.Up, func(set uint32) bool {
-		if told == api.MaxDowns {
-			return false
-		}
-		told++
-		tell(set)
-		return true
-	})
-	if !whole {
-		return api.ErrLarge
-	}
-	return api.OK
+	return choose(o.Up, down.Up, tell), api.OK
 }
 
 // choose tells the down-sets one by one, as numbers that rise, until tell has enough; it answers if all of them were told.

@@ -26,13 +26,26 @@ func downSetsOf(o api.Order) []uint32 {
 	return list
 }
 
-// refusesAll holds All and Count against the error that they must tell, with nothing beside it.
+// refusesAll holds All against the error that it must tell, with nothing beside it.
 func refusesAll(t *testing.T, o api.Order, want api.Errno) {
 	t.Helper()
 	if l, e := All(o); e != want || len(l) != 0 {
 		t.Error("All", o, l, e, want)
 	}
+}
+
+// refusesCount holds Count against the error that it must tell, with nothing beside it.
+func refusesCount(t *testing.T, o api.Order, want api.Errno) {
+	t.Helper()
 	if n, e := Count(o); e != want || n != 0 {
+		t.Error("Count", o, n, e, want)
+	}
+}
+
+// counts holds Count against how many down-sets there are.
+func counts(t *testing.T, o api.Order, want int) {
+	t.Helper()
+	if n, e := Count(o); e != api.OK || n != want {
 		t.Error("Count", o, n, e, want)
 	}
 }
@@ -44,11 +57,12 @@ func refusesInclusion(t *testing.T, o api.Order, want api.Errno) {
 	}
 }
 
-// C2, C3: over many orders, of which some have too many down-sets for the one, some for both.
+// C2, C3: over many orders, of which some have too many down-sets for Inclusion, some for All, too; Count tells of all of them.
 func TestFamilies(t *testing.T) {
 	few, more, most := 0, 0, 0
 	for _, o := range manyOrders(t) {
 		want := downSetsOf(o)
+		counts(t, o, len(want))
 		switch {
 		case len(want) > api.MaxDowns:
 			most++
@@ -57,9 +71,6 @@ func TestFamilies(t *testing.T) {
 			more++
 			if l, e := All(o); e != api.OK || !slices.Equal(l, want) {
 				t.Fatal(o, l, e, want)
-			}
-			if n, e := Count(o); e != api.OK || n != len(want) {
-				t.Fatal(o, n, e, len(want))
 			}
 		}
 		if len(want) > api.MaxN {
@@ -94,20 +105,40 @@ func includes(t *testing.T, o api.Order, sets []uint32) {
 	}
 }
 
-// C2: as many as may be are told; one more is too many.
+// C2: as many as may be are told; one more is too many for All, but not for Count.
 func TestMostDowns(t *testing.T) {
 	for _, o := range []api.Order{flat(t, 8), lines(t, 3, 3, 3, 3), lines(t, 7, 3, 3, 1), dual(t, lines(t, 7, 3, 3, 1))} {
 		if l, e := All(o); e != api.OK || len(l) != 256 || !slices.IsSorted(l) || l[0] != 0 || l[255] != 1<<uint(o.N)-1 {
 			t.Error(o, l, e)
 		}
-		if n, e := Count(o); e != api.OK || n != 256 {
-			t.Error(o, n, e)
-		}
+		counts(t, o, 256)
 		refusesInclusion(t, o, api.ErrLarge)
 	}
-	for _, o := range []api.Order{rooted(t, flat(t, 8)), dual(t, rooted(t, flat(t, 8))), rooted(t, lines(t, 3, 3, 3, 3)), flat(t, 9), flat(t, 16), lines(t, 4, 4, 4, 4)} {
-		refusesAll(t, o, api.ErrLarge)
-		refusesInclusion(t, o, api.ErrLarge)
+	for _, c := range []struct {
+		o api.Order
+		n int
+	}{
+		{rooted(t, flat(t, 8)), 257},
+		{dual(t, rooted(t, flat(t, 8))), 257},
+		{rooted(t, lines(t, 3, 3, 3, 3)), 257},
+		{flat(t, 9), 512},
+		{lines(t, 4, 4, 4, 4), 625},
+		{api.Order{N: 14, Up: []uint32{1, 2, 518, 8, 17, 32, 64, 4738, 256, 514, 1024, 3089, 4610, 12819}}, 1088},
+		{rooted(t, flat(t, 15)), 32769},
+		{flat(t, 16), 65536},
+	} {
+		counts(t, c.o, c.n)
+		refusesAll(t, c.o, api.ErrLarge)
+		refusesInclusion(t, c.o, api.ErrLarge)
+	}
+}
+
+// C2: of elements side by side each set is a down-set; of lines side by side each line has its beginnings.
+func TestCountByHand(t *testing.T) {
+	for n := range api.MaxN + 1 {
+		counts(t, flat(t, n), 1<<uint(n))
+		counts(t, lines(t, n), n+1)
+		counts(t, lines(t, n, api.MaxN-n), (n+1)*(api.MaxN-n+1))
 	}
 }
 
@@ -120,9 +151,7 @@ func TestMostIncluded(t *testing.T) {
 		}
 	}
 	for _, o := range []api.Order{rooted(t, flat(t, 4)), lines(t, 16), rooted(t, lines(t, 3, 3))} {
-		if n, e := Count(o); e != api.OK || n != 17 {
-			t.Error(o, n, e)
-		}
+		counts(t, o, 17)
 		refusesInclusion(t, o, api.ErrLarge)
 	}
 }
@@ -133,9 +162,7 @@ func TestOfNothing(t *testing.T) {
 		if l, e := All(o); e != api.OK || !slices.Equal(l, []uint32{0}) {
 			t.Error(l, e)
 		}
-		if n, e := Count(o); e != api.OK || n != 1 {
-			t.Error(n, e)
-		}
+		counts(t, o, 1)
 		if p, e := Inclusion(o); e != api.OK || p.N != 1 || !slices.Equal(p.Up, []uint32{1}) {
 			t.Error(p, e)
 		}

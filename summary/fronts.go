@@ -37,15 +37,15 @@ func Front(l []api.Summary) ([]api.Summary, api.Errno) {
 	if e := checkList(l); e != api.OK {
 		return nil, e
 	}
-	return least(l), api.OK
+	return Least(l), api.OK
 }
 
-// least is the front of summaries that make times with as many numbers.
+// Least is the front of any number of summaries that make times with as many numbers, and with which nothing is wrong.
 //
 // What is Leq to a summary, and unlike it, keeps fewer; or just as many, and adds less; or both alike, and puts first a lesser
 // one. So, in that order, a summary is of the front just if none that was taken ahead of it is Leq to it; and what comes once more
 // is left out with the others.
-func least(l []api.Summary) []api.Summary {
+func Least(l []api.Summary) []api.Summary {
 	sorted := slices.Clone(l)
 	slices.SortFunc(sorted, compare)
 	var front []api.Summary

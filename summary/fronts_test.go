@@ -249,6 +249,20 @@ func TestFrontByHand(t *testing.T) {
 	}
 }
 
+// H4, of more than may be in a list.
+func TestLeastOfMany(t *testing.T) {
+	for _, x := range []struct{ l, want []api.Summary }{
+		{nil, nil},
+		{backward(apart(many + 1)), apart(many + 1)},
+		{slices.Repeat(backward(apart(200)), 2), apart(200)},
+		{backward(line(300, 4)), []api.Summary{of(4, 0)}},
+	} {
+		if l := Least(x.l); !slices.EqualFunc(l, x.want, alike) {
+			t.Error(x.l, l)
+		}
+	}
+}
+
 // H4: the errors of a list; beside them nothing is told.
 func TestWrongLists(t *testing.T) {
 	for _, x := range []struct {

@@ -11,7 +11,7 @@ func Front(ts [][]int) ([][]int, api.Errno) {
 	if e := checkList(ts); e != api.OK {
 		return nil, e
 	}
-	return least(ts), api.OK
+	return Least(ts), api.OK
 }
 
 // Open tells if there is a time in f that is Leq to t.
@@ -35,7 +35,7 @@ func Both(f, g [][]int) ([][]int, api.Errno) {
 	if len(f)+len(g) > api.MaxTimes {
 		return nil, api.ErrLarge
 	}
-	return least(slices.Concat(f, g)), api.OK
+	return Least(slices.Concat(f, g)), api.OK
 }
 
 // Either tells the Front of all Joins of a time of f and a time of g.
@@ -52,14 +52,14 @@ func Either(f, g [][]int) ([][]int, api.Errno) {
 			joins = append(joins, together([2][]int{a, b}, greater))
 		}
 	}
-	return least(joins), api.OK
+	return Least(joins), api.OK
 }
 
-// least is the front of times that have as many numbers.
+// Least is the front of any number of times that have as many numbers, and with which nothing is wrong.
 //
 // What is Leq to a time, and unlike it, is Less than it, too: so, in the order of Less, a time is of the front just if none that
 // was taken ahead of it is Leq to it; and what comes once more is left out with the others.
-func least(ts [][]int) [][]int {
+func Least(ts [][]int) [][]int {
 	sorted := slices.Clone(ts)
 	slices.SortFunc(sorted, func(a, b []int) int { return slices.Compare(a, b) })
 	var front [][]int

@@ -76,6 +76,20 @@ func TestFrontByHand(t *testing.T) {
 	}
 }
 
+// G2, of more than may be in a list.
+func TestLeastOfMany(t *testing.T) {
+	for _, x := range []struct{ ts, want [][]int }{
+		{nil, nil},
+		{backward(apart(many + 1)), apart(many + 1)},
+		{slices.Repeat(backward(apart(200)), 2), apart(200)},
+		{backward(line(300, 4)), [][]int{{0, 0, 0, 0}}},
+	} {
+		if l := Least(x.ts); !same(l, x.want) {
+			t.Error(x.ts, l)
+		}
+	}
+}
+
 // G2
 func TestOpen(t *testing.T) {
 	d := draws(6)
